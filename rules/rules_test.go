@@ -185,3 +185,31 @@ func TestNoFloats(t *testing.T) {
 		})
 	}
 }
+
+// P7: in a package of floats each product stands in a conversion of its own, since Go may round a product and a sum at once else.
+func TestProductsAreRounded(t *testing.T) {
+	floats := []string{"phase"}
+	for _, s := range sources(t) {
+		if !slices.Contains(floats, s.pack) {
+			continue
+		}
+		rounded := map[ast.Expr]bool{}
+		ast.Inspect(s.tree, func(n ast.Node) bool {
+			switch x := n.(type) {
+			case *ast.CallExpr:
+				if f, ok := x.Fun.(*ast.Ident); ok && f.Name == "float64" {
+					rounded[x.Args[0]] = true
+				}
+			case *ast.BinaryExpr:
+				if x.Op == token.MUL && !rounded[x] {
+					t.Error(s.name, "has a product that is not rounded by itself")
+				}
+			case *ast.AssignStmt:
+				if x.Tok == token.MUL_ASSIGN {
+					t.Error(s.name, "has a product that is not rounded by itself")
+				}
+			}
+			return true
+		})
+	}
+}
