@@ -164,7 +164,7 @@ func base(e ast.Expr) string {
 
 // P7: packages whose things are whole numbers have no floats, so there is nothing to be rounded.
 func TestNoFloats(t *testing.T) {
-	whole := []string{"span", "bits", "mem", "clock", "region", "dma", "fifo", "crc", "frame", "nic", "disk", "conf", "image", "slot", "plan", "code", "asm", "cpu", "latch", "ring", "desc", "queue", "quota", "part", "serve", "post", "server"}
+	whole := []string{"span", "bits", "mem", "clock", "region", "dma", "fifo", "crc", "frame", "nic", "disk", "conf", "image", "slot", "plan", "code", "asm", "cpu", "latch", "ring", "desc", "queue", "quota", "part", "serve", "post", "server", "machine"}
 	words := []string{"float32", "float64", "complex64", "complex128"}
 	for _, s := range sources(t) {
 		if !slices.Contains(whole, s.pack) {
